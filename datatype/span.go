@@ -91,7 +91,7 @@ func (c table) measure(t api.Type) (span, api.Errno) {
 	return s, api.OK
 }
 
-// span returns what a type covers whose elements of Of cover of. With too many entries only their number has a meaning, and it is only said to be too great.
+// span returns what a type covers whose elements of Of cover of. It stops at too many entries, as the blocks may be very many; the span is of no use then.
 func (k constructor) span(t api.Type, of []span) span {
 	var s span
 	for b := range k.blocks(t, of[0].extent()) {
